@@ -105,47 +105,61 @@ func TestFramesAreTheCallers(t *testing.T) {
 	}
 }
 
+// lent calls a function with a text whose memory becomes something else behind the call.
+func lent(s string, use func(string)) {
+	memory := []byte(s)
+	use(unsafe.String(unsafe.SliceData(memory), len(memory)))
+	for i := range memory {
+		memory[i] = '#'
+	}
+}
+
 // P2: what was handed in is not kept: its memory may become something else.
 func TestBytesHandedInAreNotKept(t *testing.T) {
-	feed := func(r *link.Reader, s string) []link.Frame {
-		memory := []byte(s)
-		l, _ := r.Feed(unsafe.String(unsafe.SliceData(memory), len(memory)))
-		for i := range memory {
-			memory[i] = '#'
-		}
-		return l
-	}
 	for i := 1; i < len(everyKind); i++ {
 		r := link.NewReader()
-		got := feed(r, everyKind[:i])
-		got = append(got, feed(r, everyKind[i:])...)
+		var got []link.Frame
+		for _, piece := range []string{everyKind[:i], everyKind[i:]} {
+			lent(piece, func(b string) {
+				l, _ := r.Feed(b)
+				got = append(got, l...)
+			})
+		}
 		if !slices.Equal(got, everyKindFrames) {
 			t.Fatalf("cut at %d: %+v", i, got)
 		}
 	}
-	memory := []byte("abc")
-	packed, _ := link.Pack(link.Frame{Kind: 0, Stream: 1, Data: unsafe.String(unsafe.SliceData(memory), len(memory))})
-	memory[0] = '#'
+	var packed string
+	lent("abc", func(data string) { packed, _ = link.Pack(link.Frame{Kind: 0, Stream: 1, Data: data}) })
 	if packed != "\x00\x01\x03abc" {
 		t.Fatalf("%q", packed)
 	}
 }
 
-// A reader keeps no more than the bytes of one frame, whatever went through it.
-func TestReaderKeepsLittle(t *testing.T) {
-	const readers, size = 40, 1 << 20
+// checkKeepLittle makes things through each of which some megabytes go, and asks how much memory they keep.
+func checkKeepLittle(t *testing.T, make func(i, size int) any) {
+	t.Helper()
+	const things, size = 40, 1 << 20
 	var before, after runtime.MemStats
+	var kept [things]any
 	runtime.GC()
 	runtime.ReadMemStats(&before)
-	kept := make([]*link.Reader, readers)
 	for i := range kept {
-		kept[i] = link.NewReader()
-		kept[i].Feed("\x00\x01\x40" + strings.Repeat("x", 64) + strings.Repeat("\x02\x01\x00", size/3) + "\x05\x00" + strings.Repeat("\x08", i%2*size))
+		kept[i] = make(i, size)
 	}
 	runtime.GC()
 	runtime.ReadMemStats(&after)
-	if grown := int64(after.HeapAlloc) - int64(before.HeapAlloc); grown > readers*size/4 {
-		t.Errorf("%d readers keep %d bytes", readers, grown)
+	if grown := int64(after.HeapAlloc) - int64(before.HeapAlloc); grown > things*size/4 {
+		t.Errorf("%d %T keep %d bytes", things, kept[0], grown)
 	}
 	runtime.KeepAlive(kept)
+}
+
+// A reader keeps no more than the bytes of one frame, whatever went through it.
+func TestReaderKeepsLittle(t *testing.T) {
+	checkKeepLittle(t, func(i, size int) any {
+		r := link.NewReader()
+		r.Feed("\x00\x01\x40" + strings.Repeat("x", 64) + strings.Repeat("\x02\x01\x00", size/3) + "\x05\x00" + strings.Repeat("\x08", i%2*size))
+		return r
+	})
 }
