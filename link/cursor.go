@@ -5,6 +5,9 @@ const (
 	numberBytes = 4
 )
 
+// isNumber tells whether n can be written on the wire.
+func isNumber(n int) bool { return 0 <= n && n <= maxNumber }
+
 // cursor walks over bytes. Where a step can't be made, it stands at the byte by which one can tell, or behind the last byte if too few have come: so a reader knows the one from the other, and knows the place.
 type cursor struct {
 	text string

@@ -136,20 +136,28 @@ func TestBytesHandedInAreNotKept(t *testing.T) {
 	}
 }
 
+// growth tells by how many bytes the memory in use has grown.
+func growth(do func()) int64 {
+	var before, after runtime.MemStats
+	runtime.GC()
+	runtime.ReadMemStats(&before)
+	do()
+	runtime.GC()
+	runtime.ReadMemStats(&after)
+	return int64(after.HeapAlloc) - int64(before.HeapAlloc)
+}
+
 // checkKeepLittle makes things through each of which some megabytes go, and asks how much memory they keep.
 func checkKeepLittle(t *testing.T, make func(i, size int) any) {
 	t.Helper()
 	const things, size = 40, 1 << 20
-	var before, after runtime.MemStats
 	var kept [things]any
-	runtime.GC()
-	runtime.ReadMemStats(&before)
-	for i := range kept {
-		kept[i] = make(i, size)
-	}
-	runtime.GC()
-	runtime.ReadMemStats(&after)
-	if grown := int64(after.HeapAlloc) - int64(before.HeapAlloc); grown > things*size/4 {
+	grown := growth(func() {
+		for i := range kept {
+			kept[i] = make(i, size)
+		}
+	})
+	if grown > things*size/4 {
 		t.Errorf("%d %T keep %d bytes", things, kept[0], grown)
 	}
 	runtime.KeepAlive(kept)

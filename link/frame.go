@@ -59,17 +59,34 @@ func Pack(f Frame) (string, Errno) {
 	if e := askFrame(f); e != OK {
 		return "", e
 	}
-	b := []byte{byte(f.Kind)}
+	return string(appendFrame(nil, f)), OK
+}
+
+// appendFrame writes a frame that is right.
+func appendFrame(b []byte, f Frame) []byte {
+	b = append(b, byte(f.Kind))
 	b = appendNumber(b, f.Stream)
 	b = appendNumber(b, len(f.Data))
-	return string(append(b, f.Data...)), OK
+	return append(b, f.Data...)
+}
+
+// numberFrame makes a frame whose payload is a number.
+func numberFrame(kind, stream, n int) Frame {
+	return Frame{kind, stream, string(appendNumber(nil, n))}
+}
+
+// number is the payload of a frame that is right and has a number for it.
+func (f Frame) number() int {
+	c := cursor{text: f.Data}
+	n, _ := c.number()
+	return n
 }
 
 func askFrame(f Frame) Errno {
 	if e := askKind(f.Kind); e != OK {
 		return e
 	}
-	if f.Stream < 0 || f.Stream > maxNumber {
+	if !isNumber(f.Stream) {
 		return ErrNumber
 	}
 	if e := askStream(f.Kind, f.Stream); e != OK {

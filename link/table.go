@@ -17,8 +17,12 @@ func NewTable(bound int) (*Table, Errno) {
 	if bound < 0 || bound > maxBound {
 		return nil, ErrRange
 	}
-	return &Table{newShelf(bound, Header.weight)}, OK
+	t := newTable(bound)
+	return &t, OK
 }
+
+// newTable makes a table of a bound that can be.
+func newTable(bound int) Table { return Table{newShelf(bound, Header.weight)} }
 
 // Entries tells what was put in (P5).
 func (t *Table) Entries() []Header { return slices.Clone(t.entries.kept) }
